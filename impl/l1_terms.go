@@ -235,6 +235,15 @@ func readTerm(text string) (t term, ok bool) {
 	return t, true
 }
 
+// writeTerm returns the text of a term, and false if it is too long or has too many parts within each other.
+func writeTerm(t term) (string, bool) {
+	text := t.text()
+	if len(text) > MaxTerm || depthOf(t) > MaxNest {
+		return "", false
+	}
+	return text, true
+}
+
 func depthOf(t term) int {
 	deepest := 0
 	for _, kid := range t.kids() {
