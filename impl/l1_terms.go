@@ -217,9 +217,18 @@ func isNameLetter(b byte) bool { return firstName <= b && b <= lastName }
 func isName(text string) bool { return len(text) == 1 && isNameLetter(text[0]) }
 
 // readTerm returns the term of a text, and false if it is none.
+func readTerm(text string) (term, bool) {
+	t, ok := readUpTo(MaxTerm, text)
+	if !ok || depthOf(t) > MaxNest {
+		return nil, false
+	}
+	return t, true
+}
+
+// readUpTo returns what would be the term of a text of at most so many bytes if as many parts as it likes could lie within each other.
 // The length is checked first, since it bounds how deep the reader recurs.
-func readTerm(text string) (t term, ok bool) {
-	if len(text) > MaxTerm {
+func readUpTo(most int, text string) (t term, ok bool) {
+	if len(text) > most {
 		return nil, false
 	}
 	defer func() {
@@ -229,7 +238,7 @@ func readTerm(text string) (t term, ok bool) {
 	}()
 	r := &reader{rest: text}
 	t = r.term()
-	if r.rest != "" || depthOf(t) > MaxNest {
+	if r.rest != "" {
 		return nil, false
 	}
 	return t, true
