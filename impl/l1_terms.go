@@ -108,8 +108,10 @@ func (x choice) kids() []term { return []term{x.asked, x.ifZero, x.ifOther} }
 type misfit struct{}
 
 // A reader reads a text from its front to its back.
+// Others reads what begins with a byte with which no term of chapter 1 does; it is nil where there is nothing else.
 type reader struct {
-	rest string
+	rest   string
+	others func(head byte) term
 }
 
 func (r *reader) next() byte {
@@ -144,6 +146,9 @@ func (r *reader) term() term {
 	}
 	if isNameLetter(head) {
 		return reading{name: head}
+	}
+	if r.others != nil {
+		return r.others(head)
 	}
 	panic(misfit{})
 }
@@ -218,17 +223,18 @@ func isName(text string) bool { return len(text) == 1 && isNameLetter(text[0]) }
 
 // readTerm returns the term of a text, and false if it is none.
 func readTerm(text string) (term, bool) {
-	t, ok := readUpTo(MaxTerm, text)
+	r := &reader{rest: text}
+	t, ok := r.whole(MaxTerm)
 	if !ok || depthOf(t) > MaxNest {
 		return nil, false
 	}
 	return t, true
 }
 
-// readUpTo returns what would be the term of a text of at most so many bytes if as many parts as it likes could lie within each other.
+// whole returns what would be the term of the text if it could have so many bytes at most, and as many parts within each other as it likes.
 // The length is checked first, since it bounds how deep the reader recurs.
-func readUpTo(most int, text string) (t term, ok bool) {
-	if len(text) > most {
+func (r *reader) whole(most int) (t term, ok bool) {
+	if len(r.rest) > most {
 		return nil, false
 	}
 	defer func() {
@@ -236,7 +242,6 @@ func readUpTo(most int, text string) (t term, ok bool) {
 			t, ok = nil, false
 		}
 	}()
-	r := &reader{rest: text}
 	t = r.term()
 	if r.rest != "" {
 		return nil, false
