@@ -153,6 +153,16 @@ func formatByText(p impl.Flat) string {
 
 // flatLength returns how long the flat term at the front of a text is, -1 if there is none.
 func flatLength(text string) int {
+	return lengthBy(text, func(text string) int {
+		if strings.Contains(allSups, text[:1]) {
+			return 1
+		}
+		return -1
+	})
+}
+
+// lengthBy returns how long the term at the front of a text is, where others tells it of what no term of chapter 1 begins with.
+func lengthBy(text string, others func(text string) int) int {
 	kids, at, back := 0, 1, ""
 	nextIsIn := func(of string) bool { return len(text) > 1 && strings.Contains(of, text[1:2]) }
 	switch {
@@ -168,11 +178,11 @@ func flatLength(text string) int {
 		kids, at = 2, 2
 	case text[0] == '#' && nextIsIn("123456789") && len(text) > 2 && strings.Contains("0123456789", text[2:3]):
 		at = 3
-	case !strings.Contains("0123456789"+allNames+allSups, text[:1]):
-		return -1
+	case !strings.Contains("0123456789"+allNames, text[:1]):
+		return others(text)
 	}
 	for range kids {
-		n := flatLength(text[at:])
+		n := lengthBy(text[at:], others)
 		if n < 0 {
 			return -1
 		}
@@ -824,18 +834,24 @@ func TestLiftOfTermsWhoseNamesAreChanged(t *testing.T) {
 	}
 }
 
-func TestLiftOfManyFunctions(t *testing.T) {
+// termsWithManyFunctions returns closed terms, and whether they have 12 functions at most and names enough for Unique.
+func termsWithManyFunctions() map[string]bool {
+	terms := map[string]bool{}
 	for n := 1; n <= 17; n++ {
-		side := sum(repeat(`\a1`, n))
-		called := sum(repeat(`(\a12)`, n))
-		selves := sum(repeat(`@ab1`, n))
-		for text, names := range map[string]int{side: n, called: n, selves: 2 * n, strings.Repeat(`\a`, n) + "1": n, strings.Repeat(`@ab`, n) + "1": 2 * n} {
-			if !impl.TermValid(text) {
-				t.Fatalf("%q is no term", text)
-			}
-			if checkLiftByText(t, text) != (n <= 12 && names <= 16) {
-				t.Errorf("Lift(%q) = %v", text, n > 12 || names > 16)
-			}
+		for _, text := range []string{sum(repeat(`\a1`, n)), sum(repeat(`(\a12)`, n)), strings.Repeat(`\a`, n) + "1"} {
+			terms[text] = n <= 12
+		}
+		for _, text := range []string{sum(repeat(`@ab1`, n)), strings.Repeat(`@ab`, n) + "1"} {
+			terms[text] = n <= 8
+		}
+	}
+	return terms
+}
+
+func TestLiftOfManyFunctions(t *testing.T) {
+	for text, lifts := range termsWithManyFunctions() {
+		if !impl.TermValid(text) || checkLiftByText(t, text) != lifts {
+			t.Errorf("Lift(%q) = %v", text, !lifts)
 		}
 	}
 	nested := strings.Repeat(`\a`, 11)
@@ -943,18 +959,27 @@ func TestLiftedRunsThatAreTooLongInOneWay(t *testing.T) {
 	}
 }
 
+// growCapturing returns one of several forms of terms, in some of which there are lets around that functions capture.
+func (g grower) growCapturing(form int) string {
+	switch form % 5 {
+	case 3:
+		return `=b#42=d\aa=e1` + g.grow(g.one(kinds...), map[string]string{"b": "n", "d": ">nn", "e": "n"}, 4+g.Intn(6))
+	case 4:
+		text := growWith(g.Rand, "abcd", 3+g.Intn(5))
+		for _, name := range freeOf(text) {
+			text = "=" + string(name) + g.one("1", `\aa`, "@ab(ab)", `\a\b(ba)`) + text
+		}
+		return text
+	}
+	return g.grow(g.one(kinds...), nil, 4+g.Intn(6))
+}
+
 // Grown terms come to the same with lifted functions as with closures.
 func TestLiftOfGrownTerms(t *testing.T) {
 	g := grower{rand.New(rand.NewSource(9))}
 	ends, sups, captured := map[string]int{}, map[int]int{}, 0
 	for i := range 6000 {
-		text := g.grow(g.one(kinds...), nil, 4+g.Intn(6))
-		if i%5 == 4 {
-			text = growWith(g.Rand, "abcd", 3+g.Intn(5))
-			for _, name := range freeOf(text) {
-				text = "=" + string(name) + g.one("1", `\aa`, "@ab(ab)", `\a\b(ba)`) + text
-			}
-		}
+		text := g.growCapturing(i)
 		if !impl.IsClosed(text) || !checkLiftByText(t, text) {
 			continue
 		}
@@ -1059,28 +1084,33 @@ func TestGrownFlatPrograms(t *testing.T) {
 	}
 }
 
+// changed returns a text with one or two bytes more, less, or other ones, which are often some that are likely.
+func (g grower) changed(text, likely string) string {
+	for range 1 + g.Intn(2) {
+		at := g.Intn(len(text))
+		some := likely[g.Intn(len(likely)):][:1]
+		switch g.Intn(4) {
+		case 0:
+			text = text[:at] + some + text[at:]
+		case 1:
+			text = text[:at] + text[at+1:] + "1"
+		case 2:
+			text = text[:at] + some + text[at+1:]
+		case 3:
+			to := g.Intn(len(text))
+			text = text[:at] + text[to:to+1] + text[at+1:]
+		}
+	}
+	return text
+}
+
 // Whatever is changed in the text of a flat program, it is one or none by the oracle too.
 func TestChangedFlatPrograms(t *testing.T) {
 	g := grower{rand.New(rand.NewSource(11))}
 	const likely = "abpqABLM019#()=+?[]/ \\"
 	valid := 0
 	for range 16000 {
-		text := formatByText(growProgram(g))
-		for range 1 + g.Intn(2) {
-			at := g.Intn(len(text))
-			some := likely[g.Intn(len(likely)):][:1]
-			switch g.Intn(4) {
-			case 0:
-				text = text[:at] + some + text[at:]
-			case 1:
-				text = text[:at] + text[at+1:] + "1"
-			case 2:
-				text = text[:at] + some + text[at+1:]
-			case 3:
-				to := g.Intn(len(text))
-				text = text[:at] + text[to:to+1] + text[at+1:]
-			}
-		}
+		text := g.changed(formatByText(growProgram(g)), likely)
 		p := splitByText(text)
 		want := validByText(p) && formatByText(p) == text
 		if q, ok := impl.ParseFlat(text); ok != want || ok && !sameFlat(p, q) || !ok && !sameFlat(q, impl.Flat{}) {

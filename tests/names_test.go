@@ -48,7 +48,7 @@ func pieceOf(text string) piece {
 	return piece{front: text}
 }
 
-// firstLength returns how many bytes the term at the front of a text has.
+// firstLength returns how many bytes the term at the front of a text has, which may be one with records.
 func firstLength(text string) int {
 	kids := func(at, n int) int {
 		for range n {
@@ -59,6 +59,10 @@ func firstLength(text string) int {
 	switch text[0] {
 	case '#':
 		return 3
+	case '.':
+		return 2
+	case '{':
+		return strings.Index(text, "}") + 1
 	case '\\':
 		return kids(2, 1)
 	case '@':
@@ -77,12 +81,23 @@ func firstLength(text string) int {
 
 func (p piece) text() string { return p.front + p.binds + strings.Join(p.kids, "") + p.back }
 
+// nameOrNone drops what is no name.
+func nameOrNone(r rune) rune {
+	if strings.ContainsRune(allNames, r) {
+		return r
+	}
+	return -1
+}
+
 // freeOf returns the names that stand free in a text that would be a term if terms could be as long as they like.
 func freeOf(text string) string {
 	p := pieceOf(text)
 	free := ""
 	if p.kids == nil && 'a' <= text[0] && text[0] <= 'p' {
 		return text
+	}
+	if text[0] == '{' {
+		return uniq(strings.Map(nameOrNone, text))
 	}
 	for i, kid := range p.kids {
 		for _, name := range freeOf(kid) {
