@@ -18,13 +18,17 @@ var noClosedTerms = []string{"a", "p", `\ab`, "=aa1", "=a1b", "@fn(fm)", "(1a)",
 // endless is a term that goes on too long.
 const endless = `(\a(aa)\a(aa))`
 
-// A told value is what chapter 3 tells of a run.
+// A told value is what chapter 3 tells of a run: among others the index of the function that it comes to, and those of the functions that are called.
+// Sites are the indices of the parts that call these, and came are the pairs of a part and a function to which it is evaluated.
 type told struct {
 	end   int
 	isFun bool
 	value int
+	fun   int
 	count impl.Count
 	calls []int
+	sites []int
+	came  map[[2]int]bool
 }
 
 // A worth is a number, or a function with its index and what its free names are.
@@ -46,7 +50,7 @@ type oracle struct {
 }
 
 func runByText(text string, names map[string]worth) told {
-	o := &oracle{}
+	o := &oracle{told{came: map[[2]int]bool{}}}
 	w, err := o.evaluate(text, 0, 0, names)
 	switch err {
 	case errFault:
@@ -54,12 +58,17 @@ func runByText(text string, names map[string]worth) told {
 	case errLong:
 		return told{end: impl.EndLong}
 	}
-	o.isFun, o.value = w.text != "", w.number
+	o.isFun, o.value, o.fun = w.text != "", w.number, w.index
 	return o.told
 }
 
 // evaluate is told the index of a part, and how many calls it lies within.
-func (o *oracle) evaluate(text string, index, depth int, names map[string]worth) (worth, error) {
+func (o *oracle) evaluate(text string, index, depth int, names map[string]worth) (w worth, err error) {
+	defer func() {
+		if err == nil && w.text != "" {
+			o.came[[2]int{index, w.index}] = true
+		}
+	}()
 	if o.count.Steps == 1500 {
 		return worth{}, errLong
 	}
@@ -150,7 +159,7 @@ func (o *oracle) pair(p piece, index, depth int, names map[string]worth) (worth,
 		return two, err
 	}
 	if p.front == "(" {
-		return o.call(one, two, depth+1)
+		return o.call(index, one, two, depth+1)
 	}
 	if one.text != "" || two.text != "" {
 		return worth{}, errFault
@@ -165,7 +174,7 @@ func (o *oracle) pair(p piece, index, depth int, names map[string]worth) (worth,
 	return worth{number: n}, nil
 }
 
-func (o *oracle) call(fun, arg worth, depth int) (worth, error) {
+func (o *oracle) call(site int, fun, arg worth, depth int) (worth, error) {
 	if fun.text == "" {
 		return worth{}, errFault
 	}
@@ -175,6 +184,7 @@ func (o *oracle) call(fun, arg worth, depth int) (worth, error) {
 	o.count.Calls++
 	o.count.Deepest = max(o.count.Deepest, depth)
 	o.calls = append(o.calls, fun.index)
+	o.sites = append(o.sites, site)
 	p := pieceOf(fun.text)
 	names := boundTo(fun.names, p.binds[len(p.binds)-1:], arg)
 	if len(p.binds) == 2 {
