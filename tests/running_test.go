@@ -19,7 +19,7 @@ var noClosedTerms = []string{"a", "p", `\ab`, "=aa1", "=a1b", "@fn(fm)", "(1a)",
 const endless = `(\a(aa)\a(aa))`
 
 // A told value is what chapter 3 tells of a run: among others the index of the function that it comes to, and those of the functions that are called.
-// Sites are the indices of the parts that call these, and came are the pairs of a part and a function to which it is evaluated.
+// Sites are the indices of the parts that call these, made are those of the functions that are evaluated, each time again, and came are the pairs of a part and a function to which it is evaluated.
 type told struct {
 	end   int
 	isFun bool
@@ -28,6 +28,7 @@ type told struct {
 	count impl.Count
 	calls []int
 	sites []int
+	made  []int
 	came  map[[2]int]bool
 }
 
@@ -82,6 +83,7 @@ func (o *oracle) evaluate(text string, index, depth int, names map[string]worth)
 		}
 		o.count.Closures++
 		o.count.Captured += len(w.names)
+		o.made = append(o.made, index)
 		return w, nil
 	case '?':
 		return o.choose(p, index, depth, names)
