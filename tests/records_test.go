@@ -19,16 +19,19 @@ type madeWorth struct {
 }
 
 // A madeOracle runs a program with records on its texts, in the words of chapter 6.
+// Tags are the names of the codes of the records that are called, in order.
 type madeOracle struct {
 	program impl.Made
 	count   impl.Count
 	heap    []madeWorth
+	tags    []string
 }
 
-// A madeTold value is what the chapter tells of a run.
+// A madeTold value is what the chapter tells of a run, with the tags of the records that are called.
 type madeTold struct {
 	told
 	heap string
+	tags []string
 }
 
 func runMadeByText(p impl.Made) madeTold {
@@ -40,7 +43,7 @@ func runMadeByText(p impl.Made) madeTold {
 	case errLong:
 		return madeTold{told: told{end: impl.EndLong}}
 	}
-	return madeTold{told: told{isFun: w.code != "", value: w.number, count: o.count}, heap: o.heapText()}
+	return madeTold{told: told{isFun: w.code != "", value: w.number, count: o.count}, heap: o.heapText(), tags: o.tags}
 }
 
 func (o *madeOracle) heapText() string {
@@ -119,6 +122,7 @@ func (o *madeOracle) call(fun, arg madeWorth, depth int) (madeWorth, error) {
 	}
 	o.count.Calls++
 	o.count.Deepest = max(o.count.Deepest, depth+1)
+	o.tags = append(o.tags, fun.code)
 	c := codeByText(o.program, fun.code)
 	reads := map[string]madeWorth{c.Param: arg, "%": fun}
 	for i, field := range fun.fields {
